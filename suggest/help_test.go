@@ -11,13 +11,13 @@ import (
 	"scholia/dict"
 )
 
-// signs is the first 64 signs of a text; a byte that is no sign is -1.
+// signs is the first 64 signs of a text; a byte that is no sign is below 0, another one another number.
 func signs(s string) []rune {
 	var l []rune
 	for len(s) > 0 && len(l) < 64 {
 		r, n := utf8.DecodeRuneInString(s)
 		if r == utf8.RuneError && n == 1 {
-			r = -1
+			r = -1 - rune(s[0])
 		}
 		l = append(l, r)
 		s = s[n:]
@@ -59,7 +59,7 @@ func steps(a, b []rune) int {
 func someText(rnd *rand.Rand, many int) string {
 	var b strings.Builder
 	for range rnd.Intn(many + 1) {
-		b.WriteString([]string{"a", "b", "c", "é", "€", "\U0001F600", "\xff", "\xc3"}[rnd.Intn(8)])
+		b.WriteString([]string{"a", "b", "c", "é", "€", "\U0001F600", "\xff", "\xc3", "\xa0"}[rnd.Intn(9)])
 	}
 	return b.String()
 }

@@ -27,6 +27,7 @@ func TestDistance(t *testing.T) {
 		{"é", "e", 1}, {"é", "ê", 1}, {"é", "", 1}, {"école", "ecole", 1}, {"é€", "€é", 1}, {"\U0001F600", "€", 1}, {"éa", "aé", 1},
 		{"Fox", "fox", 1},
 		{"\xff", "", 1}, {"\xff", "a", 1}, {"\xff", "\ufffd", 1}, {"\xff", "\xff", 0}, {"\xff", "ÿ", 1}, {"\xffa", "a\xff", 1}, {"\xc3", "é", 1}, {"\xe2\x82", "€", 2}, {"a\xffb", "ab", 1},
+		{"\xed", "\xa0", 1}, {"\xff", "\x80", 1}, {"\xff", "\xfe", 1}, {"\xed\xa0", "\xa0\xed", 1}, {"Z\xe0\x80\x80", "Z\x80\xe0\x80", 1}, {"\xed\xa0\x80", "\xed\xa0\x80", 0}, {"\xed\xa0\x80", "\xa0\x80", 1}, {"\xc3\xc3", "\xc3", 1}, {"\x80\x81\x82", "\x83\x84\x85", 3},
 		{x, x + "y", 0}, {x + "abc", x + "z", 0}, {x[:63], x, 1}, {x[:63] + "y", x, 1}, {x[:62] + "ab", x[:62] + "ba", 1}, {x[:63] + "ab", x[:63] + "ba", 1}, {"", x + x, 64}, {"y" + x, x, 1}, {"y" + x, x + "z", 1}, {"", strings.Repeat("€", 100), 64},
 	} {
 		if got := suggest.Distance(c.s, c.t); got != c.want {
@@ -55,7 +56,7 @@ func TestSomeDistances(t *testing.T) {
 		if n != steps(a, b) {
 			t.Fatalf("%q and %q: %d, not %d", s, u, n, steps(a, b))
 		}
-		if n != suggest.Distance(u, s) || (n == 0) != slices.Equal(a, b) || n < max(len(a)-len(b), len(b)-len(a)) || n > max(len(a), len(b)) {
+		if n != suggest.Distance(u, s) || (n == 0) != slices.Equal(a, b) || len(a) < 64 && len(b) < 64 && (n == 0) != (s == u) || n < max(len(a)-len(b), len(b)-len(a)) || n > max(len(a), len(b)) {
 			t.Fatalf("%q and %q: %d", s, u, n)
 		}
 	}
@@ -94,9 +95,30 @@ func TestNear(t *testing.T) {
 		{"", 0, 9, nil},
 		{"hens", 1, 9, nil},
 		{"f\xffx", 1, 9, guess(1, "fox")},
+		{"f\xffx", 0, 9, nil},
 	} {
 		if got := suggest.Near(d, c.w, c.away, c.k); !slices.Equal(got, c.want) {
 			t.Errorf("%q, %d away, %d: %v", c.w, c.away, c.k, got)
+		}
+	}
+}
+
+// P32.2: words of bytes that are no signs.
+func TestNearNoSigns(t *testing.T) {
+	d := build(t, []string{"\xa0", "\xed", "\xed\xa0", "a\xff"})
+	for _, c := range []struct {
+		w    string
+		away int
+		want []api.Guess
+	}{
+		{"\xed", 0, []api.Guess{{Word: "\xed"}}},
+		{"\xed", 1, []api.Guess{{Word: "\xed"}, {Word: "\xa0", Away: 1}, {Word: "\xed\xa0", Away: 1}}},
+		{"\xa0\xed", 1, []api.Guess{{Word: "\xa0", Away: 1}, {Word: "\xed", Away: 1}, {Word: "\xed\xa0", Away: 1}}},
+		{"a\xfe", 0, nil},
+		{"a\xfe", 1, []api.Guess{{Word: "a\xff", Away: 1}}},
+	} {
+		if got := suggest.Near(d, c.w, c.away, 9); !slices.Equal(got, c.want) {
+			t.Errorf("%q, %d away: %v", c.w, c.away, got)
 		}
 	}
 }
